@@ -99,6 +99,25 @@ func randomElement(r *rand.Rand) []byte {
 	return randomList(r, 32)
 }
 
+// listsUpTo are lists of each length below limit.
+func listsUpTo(r *rand.Rand, limit int) [][]byte {
+	lists := [][]byte{nil, {}}
+	for n := 1; n < limit; n++ {
+		lists = append(lists, make([]byte, n), full(n), randomList(r, n), randomNum(r, n))
+		lists = append(lists, append(make([]byte, n-1), 1), append(make([]byte, n-1), 128))
+	}
+	return lists
+}
+
+// listsNotOf32 are lists of lengths at and around all that a function might take for 32.
+func listsNotOf32(r *rand.Rand) [][]byte {
+	lists := [][]byte{nil, {}}
+	for _, n := range []int{1, 16, 31, 33, 34, 63, 64, 65, 200} {
+		lists = append(lists, make([]byte, n), full(n), randomList(r, n))
+	}
+	return lists
+}
+
 func checkList(t *testing.T, what string, got []byte, want []byte, args ...[]byte) {
 	t.Helper()
 	if !bytes.Equal(got, want) {
@@ -209,10 +228,8 @@ func TestFieldRandom(t *testing.T) {
 
 func TestFieldCanonicalLengths(t *testing.T) {
 	r := rand.New(rand.NewSource(3))
-	for n := range 70 {
-		checkCanonical(t, make([]byte, n))
-		checkCanonical(t, full(n))
-		checkCanonical(t, randomList(r, n))
+	for _, a := range listsUpTo(r, 70) {
+		checkCanonical(t, a)
 	}
 	// The bit above the 255 counts as any other.
 	checkCanonical(t, append(make([]byte, 31), 128))
@@ -224,16 +241,8 @@ func TestFieldCanonicalLengths(t *testing.T) {
 
 func TestFieldReduceLengths(t *testing.T) {
 	r := rand.New(rand.NewSource(4))
-	checkReduce(t, nil)
-	for n := range 130 {
-		checkReduce(t, make([]byte, n))
-		checkReduce(t, full(n))
-		checkReduce(t, randomList(r, n))
-		checkReduce(t, randomNum(r, n))
-		if n > 0 {
-			checkReduce(t, append(make([]byte, n-1), 1))
-			checkReduce(t, append(make([]byte, n-1), 128))
-		}
+	for _, a := range listsUpTo(r, 130) {
+		checkReduce(t, a)
 	}
 	for _, low := range fieldEdges() {
 		for _, high := range fieldEdges() {
@@ -318,12 +327,8 @@ func TestPromise4(t *testing.T) {
 func TestFieldOtherLengths(t *testing.T) {
 	r := rand.New(rand.NewSource(7))
 	good := randomElement(r)
-	wrong := [][]byte{nil, {}}
-	for _, n := range []int{1, 16, 31, 33, 34, 63, 64, 65, 200} {
-		wrong = append(wrong, make([]byte, n), full(n), randomList(r, n))
-	}
 	two := []func(a []byte, b []byte) []byte{impl.FieldAdd, impl.FieldSub, impl.FieldMul}
-	for _, a := range wrong {
+	for _, a := range listsNotOf32(r) {
 		for i, call := range two {
 			for _, args := range [][2][]byte{{a, good}, {good, a}, {a, a}} {
 				if got := call(args[0], args[1]); len(got) != 0 {
