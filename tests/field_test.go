@@ -346,12 +346,6 @@ func TestFieldOtherLengths(t *testing.T) {
 }
 
 func TestFieldMemory(t *testing.T) {
-	one := func(call func(a []byte) []byte) func(args [][]byte) [][]byte {
-		return func(args [][]byte) [][]byte { return [][]byte{call(args[0])} }
-	}
-	two := func(call func(a []byte, b []byte) []byte) func(args [][]byte) [][]byte {
-		return func(args [][]byte) [][]byte { return [][]byte{call(args[0], args[1])} }
-	}
 	canonical := func(args [][]byte) [][]byte {
 		impl.FieldCanonical(args[0])
 		return nil
@@ -361,14 +355,14 @@ func TestFieldMemory(t *testing.T) {
 	lists := append(fieldEdges(), nil, []byte{7}, randomList(r, 31), randomList(r, 33), randomList(r, 64), randomList(r, 65))
 	for _, a := range lists {
 		checkMemory(t, "canonical", canonical, a)
-		checkMemory(t, "reduced", one(impl.FieldReduce), a)
-		checkMemory(t, "inverse", one(impl.FieldInvert), a)
+		checkMemory(t, "reduced", ofOneList(impl.FieldReduce), a)
+		checkMemory(t, "inverse", ofOneList(impl.FieldInvert), a)
 		checkMemory(t, "root", root, a)
 		for _, b := range [][]byte{a, lowNumber(0), lowNumber(1), randomElement(r)} {
 			for _, args := range [][2][]byte{{a, b}, {b, a}} {
-				checkMemory(t, "sum", two(impl.FieldAdd), args[0], args[1])
-				checkMemory(t, "difference", two(impl.FieldSub), args[0], args[1])
-				checkMemory(t, "product", two(impl.FieldMul), args[0], args[1])
+				checkMemory(t, "sum", ofTwoLists(impl.FieldAdd), args[0], args[1])
+				checkMemory(t, "difference", ofTwoLists(impl.FieldSub), args[0], args[1])
+				checkMemory(t, "product", ofTwoLists(impl.FieldMul), args[0], args[1])
 			}
 		}
 	}

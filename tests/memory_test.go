@@ -98,3 +98,12 @@ func checkMemory(t *testing.T, what string, call func(args [][]byte) [][]byte, a
 		t.Errorf("%s of %x: a second call answers something else", what, args)
 	}
 }
+
+// ofOneList makes of a call something that checkMemory can ask.
+func ofOneList(call func(a []byte) []byte) func(args [][]byte) [][]byte {
+	return func(args [][]byte) [][]byte { return [][]byte{call(args[0])} }
+}
+
+func ofTwoLists(call func(a []byte, b []byte) []byte) func(args [][]byte) [][]byte {
+	return func(args [][]byte) [][]byte { return [][]byte{call(args[0], args[1])} }
+}
