@@ -6,6 +6,7 @@ import (
 	"fmt"
 	"slices"
 	"strings"
+	"sync"
 	"testing"
 
 	"loop.example/g00004/impl"
@@ -16,8 +17,12 @@ import (
 // chainRulesCount is the number of the last rule.
 const chainRulesCount = 11
 
-// librarySeen keeps what the library said of a signature: the same links are asked for again and again.
-var librarySeen = map[string]bool{}
+// librarySeen keeps what the library said of a signature: the same links are asked for again and again, by several tests at
+// once.
+var (
+	librarySeen = map[string]bool{}
+	libraryLock sync.Mutex
+)
 
 func librarySigned(c impl.Cert, key []byte) bool {
 	if len(key) != ed25519.PublicKeySize {
@@ -25,6 +30,8 @@ func librarySigned(c impl.Cert, key []byte) bool {
 	}
 	message := signedBytes(c)
 	link := string(key) + string(c.Signature) + string(message)
+	libraryLock.Lock()
+	defer libraryLock.Unlock()
 	good, seen := librarySeen[link]
 	if !seen {
 		good = ed25519.Verify(key, message, c.Signature)

@@ -73,9 +73,14 @@ func TestTwoThatFit(t *testing.T) {
 	}
 }
 
-// Where two do not fit, one of them has the alert, and the other one gets it.
-func TestTwoThatDoNotFit(t *testing.T) {
-	t.Parallel()
+// unfit is one thing by which two do not fit: which of them sees it, and the alert that it has then.
+type unfit struct {
+	server bool
+	alert  int64
+	change func(c *couple)
+}
+
+func unfits() map[string]unfit {
 	chained := func(change func(c *chainCase)) func(c *couple) {
 		return func(c *couple) {
 			chain := goodCase(2)
@@ -84,11 +89,7 @@ func TestTwoThatDoNotFit(t *testing.T) {
 			c.server.Certs, c.client.Roots = chain.chain, chain.roots
 		}
 	}
-	for what, one := range map[string]struct {
-		server bool
-		alert  int64
-		change func(c *couple)
-	}{
+	return map[string]unfit{
 		"another host": {true, impl.AlertName, func(c *couple) { c.client.Host = "www.other.example" }},
 		"no protocol":  {true, impl.AlertProtocol, func(c *couple) { c.client.Protocols, c.server.Protocols = []string{"a"}, []string{"b"} }},
 		"no protocol, host": {true, impl.AlertName, func(c *couple) {
@@ -115,7 +116,13 @@ func TestTwoThatDoNotFit(t *testing.T) {
 			c.client = earlyClient()
 			c.client.Saved.Protocol = "h2"
 		}},
-	} {
+	}
+}
+
+// Where two do not fit, one of them has the alert, and the other one gets it.
+func TestTwoThatDoNotFit(t *testing.T) {
+	t.Parallel()
+	for what, one := range unfits() {
 		c := &couple{client: shopClient(), server: shopServer()}
 		one.change(c)
 		client, server := c.flush().reports()

@@ -510,10 +510,7 @@ func (e *playedEnd) hearCerts(m impl.Message) int64 {
 		}
 		chain = append(chain, decoded.Cert)
 	}
-	costlyLock.Lock()
-	code := toldChain(chain, e.c.Roots, impl.Wanted{Host: e.c.Host, Now: e.r.Now, Use: 1}).Code
-	costlyLock.Unlock()
-	switch code {
+	switch toldChain(chain, e.c.Roots, impl.Wanted{Host: e.c.Host, Now: e.r.Now, Use: 1}).Code {
 	case 0:
 		e.messages = append(e.messages, m)
 		return noAlert
