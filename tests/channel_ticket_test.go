@@ -249,3 +249,17 @@ func TestChannelEarlyDataMeddledWith(t *testing.T) {
 		})
 	}
 }
+
+// Up to Extras without fault a client that has sent early data seals with their secret, its alert too: a server that does not
+// take them passes over that alert with them, and is not told.
+func TestChannelAlertPassedOver(t *testing.T) {
+	t.Parallel()
+	client, server := returning(t, shopServer()), laterServer(noEarlyServer())
+	client.Saved.Protocol = "h2"
+	r := checkHonest(t, "passed over", client, server, flushStep())
+	if r.Client.Alert != impl.AlertIllegal || r.Server.PeerAlert != noAlert || r.Server.Phase != impl.PhaseWaiting || impl.Agreement(r) != impl.AgreeEnded {
+		t.Errorf("passed over: %s", channelInShort(r))
+	}
+	client.Early = nil
+	checkUnfit(t, "no early data", &couple{client: client, server: server}, false, impl.AlertIllegal, flushStep())
+}
